@@ -762,32 +762,14 @@ func TestDifferentStatesAreNotEqual(t *testing.T) {
 // unusedMark stands in the capacity that a slice does not use.
 var unusedMark = domega(-7, 7, -7, 7, -7)
 
-// withUnusedCapacity returns v in a larger array.
-func withUnusedCapacity(v []impl.DOmega) []impl.DOmega {
-	list := append(slices.Clone(v), sameAmplitudes(20, unusedMark)...)
-	return list[:len(v)]
-}
+func withUnusedCapacity(v []impl.DOmega) []impl.DOmega { return withMarks(v, unusedMark) }
 
-// checkUntouched expects v as it was, and marks in its unused capacity.
 func checkUntouched(t *testing.T, what string, v, before []impl.DOmega) {
 	t.Helper()
-	if !slices.Equal(v, before) {
-		t.Fatalf("%s changes %v to %v", what, before, v)
-	}
-	for k, x := range v[len(v) : len(v)+20] {
-		if x != unusedMark {
-			t.Fatalf("%s writes %v into the unused capacity of %v, at %d", what, x, before, k)
-		}
-	}
+	checkMarks(t, what, v, before, unusedMark)
 }
 
-// overwrite fills the slice and its unused capacity.
-func overwrite(v []impl.DOmega) {
-	v = v[:cap(v)]
-	for k := range v {
-		v[k] = domega(99, 98, 97, 96, 95)
-	}
-}
+func overwrite(v []impl.DOmega) { fillWith(v, domega(99, 98, 97, 96, 95)) }
 
 // TestStatesAreKept overwrites each result: neither an argument nor another result may change with it.
 func TestStatesAreKept(t *testing.T) {
@@ -820,19 +802,9 @@ func TestStatesAreKept(t *testing.T) {
 
 func firstOf(v []impl.DOmega, _ bool) []impl.DOmega { return v }
 
-// checkFreshResults expects the same result of every call, in memory of its own.
 func checkFreshResults(t *testing.T, what string, call func() []impl.DOmega) {
 	t.Helper()
-	first, second := call(), call()
-	want := slices.Clone(first)
-	overwrite(first)
-	if !slices.Equal(second, want) {
-		t.Fatalf("two results of %s share their memory: %v becomes %v", what, want, second)
-	}
-	overwrite(second)
-	if third := call(); !slices.Equal(third, want) {
-		t.Fatalf("%s gives %v, and %v once its results were overwritten", what, want, third)
-	}
+	checkFresh(t, what, domega(99, 98, 97, 96, 95), call)
 }
 
 // TestResultsKeepTheirValues: also when an argument is overwritten afterwards.
