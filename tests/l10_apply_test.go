@@ -745,9 +745,13 @@ func TestAmplitudesThatAGateDoesNotTouch(t *testing.T) {
 	}
 }
 
+// sizesOfNoState returns integers of all sizes that are no number of qubits; some of them have one as their last bits.
+func sizesOfNoState() []int {
+	return []int{0, -1, -2, -3, -4, -64, 5, 6, 8, 16, 31, 32, 62, 63, 64, 65, 256, 257, 1 << 32, 1<<32 + 1, 1<<62 + 2, math.MinInt, math.MinInt + 1, math.MinInt + 4, math.MaxInt - 1, math.MaxInt}
+}
+
 func TestMatricesOfNoNumberOfQubits(t *testing.T) {
-	sizes := []int{0, -1, -2, -3, -4, -64, 5, 6, 8, 16, 31, 32, 62, 63, 64, 65, 256, 257, 1 << 32, 1<<32 + 1, 1<<62 + 2, math.MinInt, math.MinInt + 1, math.MinInt + 4, math.MaxInt - 1, math.MaxInt}
-	for _, n := range sizes {
+	for _, n := range sizesOfNoState() {
 		for _, g := range slices.Concat(validGates(4), fewGatesOfNoState()) {
 			checkGateMatrix(t, g, n, nil, false)
 		}
