@@ -49,13 +49,7 @@ func permutationOf(order ...int) [][]impl.DOmega {
 	return m
 }
 
-func cloneMatrix(m [][]impl.DOmega) [][]impl.DOmega {
-	var list [][]impl.DOmega
-	for _, row := range m {
-		list = append(list, slices.Clone(row))
-	}
-	return list
-}
+func cloneMatrix(m [][]impl.DOmega) [][]impl.DOmega { return cloneRows(m) }
 
 // changedAt returns a copy of m with x in row i and column k.
 func changedAt(m [][]impl.DOmega, i, k int, x impl.DOmega) [][]impl.DOmega {
@@ -258,9 +252,7 @@ func expectedAdjoint(m [][]impl.DOmega) [][]impl.DOmega {
 }
 
 // sameMatrix compares without the program.
-func sameMatrix(a, b [][]impl.DOmega) bool {
-	return slices.EqualFunc(a, b, slices.Equal[[]impl.DOmega])
-}
+func sameMatrix(a, b [][]impl.DOmega) bool { return sameRows(a, b) }
 
 // checkMatrix expects the matrix and true, or no matrix and false if it is not to be accepted.
 func checkMatrix(t *testing.T, what string, operands []any, got [][]impl.DOmega, ok bool, want [][]impl.DOmega, accept bool) {
@@ -955,74 +947,21 @@ func TestMatricesAndStatesOfDifferentSizes(t *testing.T) {
 	}
 }
 
-// roomyMatrix returns m in larger arrays, with marks in the unused capacity of the matrix and of each row.
-func roomyMatrix(m [][]impl.DOmega) [][]impl.DOmega {
-	var list [][]impl.DOmega
-	for _, row := range m {
-		list = append(list, withUnusedCapacity(row))
-	}
-	for range 20 {
-		list = append(list, []impl.DOmega{unusedMark})
-	}
-	return list[:len(m)]
-}
+// roomyMatrix returns m with marks in the unused capacity of the matrix and of each row.
+func roomyMatrix(m [][]impl.DOmega) [][]impl.DOmega { return withMarkedRows(m, unusedMark) }
 
-// checkMatrixUntouched expects m as it was, and marks in its unused capacity.
 func checkMatrixUntouched(t *testing.T, what string, m, before [][]impl.DOmega) {
 	t.Helper()
-	if len(m) != len(before) {
-		t.Fatalf("%s changes %v to %v", what, before, m)
-	}
-	for i, row := range m {
-		checkUntouched(t, what, row, before[i])
-	}
-	for i, row := range m[len(m) : len(m)+20] {
-		if !slices.Equal(row, []impl.DOmega{unusedMark}) {
-			t.Fatalf("%s writes %v into the unused capacity of %v, at %d", what, row, before, i)
-		}
-	}
+	checkMarkedRows(t, what, m, before, unusedMark)
 }
 
-// overwriteMatrix fills the rows, their unused capacity and that of the matrix.
-func overwriteMatrix(m [][]impl.DOmega) {
-	for i, row := range m {
-		overwrite(row)
-		m[i] = nil
-	}
-	m = m[:cap(m)]
-	for i := range m {
-		m[i] = sameAmplitudes(3, unusedMark)
-	}
-}
+func overwriteMatrix(m [][]impl.DOmega) { fillRows(m, domega(99, 98, 97, 96, 95)) }
 
 func firstMatrix(m [][]impl.DOmega, _ bool) [][]impl.DOmega { return m }
 
-// checkFreshMatrices expects the same result of every call, in memory of its own, and no two rows in the same memory.
 func checkFreshMatrices(t *testing.T, what string, call func() [][]impl.DOmega) {
 	t.Helper()
-	first, second := call(), call()
-	want := cloneMatrix(first)
-	for i, row := range first {
-		overwrite(row)
-		if !sameMatrix(first[i+1:], want[i+1:]) {
-			t.Fatalf("two rows of a result of %s share their memory: %v becomes %v", what, want, first)
-		}
-	}
-	overwriteMatrix(first)
-	if !sameMatrix(second, want) {
-		t.Fatalf("two results of %s share their memory: %v becomes %v", what, want, second)
-	}
-	// The rows are overwritten in the other order too.
-	for i, row := range slices.Backward(second) {
-		overwrite(row)
-		if !sameMatrix(second[:i], want[:i]) {
-			t.Fatalf("two rows of a result of %s share their memory: %v becomes %v", what, want, second)
-		}
-	}
-	overwriteMatrix(second)
-	if third := call(); !sameMatrix(third, want) {
-		t.Fatalf("%s gives %v, and %v once its results were overwritten", what, want, third)
-	}
+	checkFreshRows(t, what, domega(99, 98, 97, 96, 95), call)
 }
 
 // TestMatricesAreKept overwrites each result: neither an argument nor another result may change with it.
