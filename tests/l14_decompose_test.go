@@ -29,12 +29,17 @@ func expectedDecomposition(g impl.Gate) []impl.Gate {
 	if !ok {
 		return []impl.Gate{g}
 	}
+	return gatesNamed(text, map[string]int{"a": g.A, "b": g.B, "c": g.C})
+}
+
+// gatesNamed reads a text of the chapter such as "h b; cx a b; h b", in which qubits have names.
+func gatesNamed(text string, named map[string]int) []impl.Gate {
 	var list []impl.Gate
 	for _, s := range strings.Split(text, "; ") {
 		words := strings.Fields(s)
 		var qubits []int
 		for _, word := range words[1:] {
-			qubits = append(qubits, map[string]int{"a": g.A, "b": g.B, "c": g.C}[word])
+			qubits = append(qubits, named[word])
 		}
 		list = append(list, gateOn(expectedKindOf(words[0]), qubits...))
 	}
